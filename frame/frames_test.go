@@ -9,6 +9,7 @@ import (
 	"manometer/api"
 	"manometer/bits"
 	"manometer/frame"
+	"manometer/sample"
 )
 
 // plainFrame is the frame of b, with its sum reckoned by the tests' own way.
@@ -89,7 +90,7 @@ func TestPutBytes(t *testing.T) {
 
 func TestPutAndSizeUpToMaxFrame(t *testing.T) {
 	for _, n := range sizes() {
-		b := anyBytes(n)
+		b := sample.Bytes(n)
 		f := mustPut(t, b)
 		if !bytes.Equal(f, plainFrame(b)) {
 			t.Fatalf("Put of %d bytes", n)
@@ -140,14 +141,14 @@ func TestGetLengthAboveMaxFrame(t *testing.T) {
 		mustFail(t, length, api.ErrLong) // though the bytes are missing, too
 		mustFail(t, withSum(length, []byte("a")), api.ErrLong)
 	}
-	whole := withSum(bits.PutUvarint(1<<20+1), anyBytes(1<<20+1))
+	whole := withSum(bits.PutUvarint(1<<20+1), sample.Bytes(1<<20+1))
 	mustFail(t, whole, api.ErrLong)
 	mustFail(t, bits.PutUvarint(1<<20), api.ErrShort) // which itself may be
 }
 
 func TestGetShort(t *testing.T) {
 	for _, n := range []int{0, 1, 5, 127, 128, 300} {
-		f := mustPut(t, anyBytes(n))
+		f := mustPut(t, sample.Bytes(n))
 		for i := range f {
 			mustFail(t, f[:i], api.ErrShort) // the bytes behind stand in memory, but not in the list
 		}
@@ -155,7 +156,7 @@ func TestGetShort(t *testing.T) {
 		mustFail(t, f[:len(f)-1], api.ErrShort) // though the sum would be another one
 		mustFail(t, f, api.ErrSum)
 	}
-	f := mustPut(t, anyBytes(1<<20))
+	f := mustPut(t, sample.Bytes(1<<20))
 	for _, i := range []int{2, 3, 1 << 20, len(f) - 5, len(f) - 4, len(f) - 1} {
 		mustFail(t, f[:i], api.ErrShort)
 	}
@@ -181,7 +182,7 @@ func TestGetSumAsItIsStored(t *testing.T) {
 
 func TestGetWhateverStandsBehind(t *testing.T) {
 	for _, n := range sizes() {
-		b := anyBytes(n)
+		b := sample.Bytes(n)
 		f := plainFrame(b)
 		for _, tail := range [][]byte{nil, {0}, {0xff}, {1, 2}, bytes.Repeat([]byte{0xff}, 20), f[:3], plainFrame([]byte("b"))} {
 			mustGet(t, slices.Concat(f, tail), b, len(f))
@@ -195,8 +196,8 @@ func TestAllThatWasPut(t *testing.T) {
 	var parts [][]byte
 	var whole []byte
 	for _, n := range append(sizes(), 0, 0, 7) {
-		parts = append(parts, anyBytes(n))
-		whole = append(whole, mustPut(t, anyBytes(n))...)
+		parts = append(parts, sample.Bytes(n))
+		whole = append(whole, mustPut(t, sample.Bytes(n))...)
 		mustAll(t, whole, parts, api.OK)
 	}
 }
@@ -205,7 +206,7 @@ func TestAllOfManyFrames(t *testing.T) {
 	parts := make([][]byte, 3000)
 	var whole []byte
 	for i := range parts {
-		parts[i] = anyBytes(i % 140)
+		parts[i] = sample.Bytes(i % 140)
 		whole = append(whole, plainFrame(parts[i])...)
 	}
 	mustAll(t, whole, parts, api.OK)
@@ -214,7 +215,7 @@ func TestAllOfManyFrames(t *testing.T) {
 // P2.3, of All: the first error ends it, and what stands ahead is told.
 
 func TestAllUpToTheFirstError(t *testing.T) {
-	parts := [][]byte{[]byte("first"), nil, anyBytes(200)}
+	parts := [][]byte{[]byte("first"), nil, sample.Bytes(200)}
 	sound := plainFrame([]byte("behind"))
 	wrong := plainFrame([]byte("wrong"))
 	wrong[2]++
@@ -243,7 +244,7 @@ func TestAllUpToTheFirstError(t *testing.T) {
 
 func TestEachByteBehindTheLengthCounts(t *testing.T) {
 	for _, n := range []int{0, 1, 4, 130} {
-		f := plainFrame(anyBytes(n))
+		f := plainFrame(sample.Bytes(n))
 		head := len(bits.PutUvarint(uint64(n)))
 		for i := head; i < len(f); i++ {
 			for x := range 255 {
@@ -253,7 +254,7 @@ func TestEachByteBehindTheLengthCounts(t *testing.T) {
 			}
 		}
 	}
-	f := plainFrame(anyBytes(1 << 20))
+	f := plainFrame(sample.Bytes(1 << 20))
 	for _, i := range []int{3, 4, 1000, 1 << 19, len(f) - 5, len(f) - 4, len(f) - 1} {
 		bad := slices.Clone(f)
 		bad[i] ^= 0x10
@@ -264,7 +265,7 @@ func TestEachByteBehindTheLengthCounts(t *testing.T) {
 // P2.7
 
 func TestFramesCutOffAnywhere(t *testing.T) {
-	parts := [][]byte{[]byte("one"), nil, anyBytes(130), {0}, {0xff, 0xff}, nil}
+	parts := [][]byte{[]byte("one"), nil, sample.Bytes(130), {0}, {0xff, 0xff}, nil}
 	var whole []byte
 	ends := []int{0}
 	for _, x := range parts {
@@ -332,7 +333,7 @@ func TestBytesHandedInAreNotChanged(t *testing.T) {
 
 func TestAnyBytesAreAnswered(t *testing.T) {
 	for n := range 2000 {
-		b := anyBytes(n % 50)
+		b := sample.Bytes(n % 50)
 		if len(b) > 0 {
 			b[0] = byte(n)
 		}

@@ -7,6 +7,7 @@ import (
 
 	"manometer/api"
 	"manometer/frame"
+	"manometer/sample"
 )
 
 // plainOn is what a sum that is not yet ended comes to by b, a bit at a time, as P2.1 says it.
@@ -26,24 +27,13 @@ func plainOn(state uint32, b []byte) uint32 {
 
 func plainSum(b []byte) uint32 { return plainOn(0xffffffff, b) ^ 0xffffffff }
 
-// anyBytes are n bytes that look like any, the same ones each time.
-func anyBytes(n int) []byte {
-	b := make([]byte, n)
-	state := uint32(n) + 12345
-	for i := range b {
-		state = state*1664525 + 1013904223
-		b[i] = byte(state >> 24)
-	}
-	return b
-}
-
 // anyNumbers are numbers of 32 bits: the edges, those around each power of 2, and some that look like any.
 func anyNumbers() []uint32 {
 	l := []uint32{0, math.MaxUint32, 0xa282ead8, 0xa282ead7, 0x5d7d1528}
 	for i := range 32 {
 		l = append(l, 1<<i-1, 1<<i, 1<<i+1, ^uint32(1<<i))
 	}
-	b := anyBytes(4000)
+	b := sample.Bytes(4000)
 	for i := 0; i < len(b); i += 4 {
 		l = append(l, uint32(b[i])<<24|uint32(b[i+1])<<16|uint32(b[i+2])<<8|uint32(b[i+3]))
 	}
@@ -111,7 +101,7 @@ func TestSumOfEachByte(t *testing.T) {
 
 func TestSumOfAnyLength(t *testing.T) {
 	for _, n := range []int{3, 4, 7, 8, 9, 15, 16, 17, 63, 64, 65, 255, 256, 257, 1000, 4096, 100003} {
-		b := anyBytes(n)
+		b := sample.Bytes(n)
 		if got := frame.Sum(b); got != plainSum(b) {
 			t.Fatalf("Sum of %d bytes: %08x, want %08x", n, got, plainSum(b))
 		}
@@ -119,7 +109,7 @@ func TestSumOfAnyLength(t *testing.T) {
 }
 
 func TestSumOfParts(t *testing.T) {
-	b := anyBytes(40)
+	b := sample.Bytes(40)
 	want := plainSum(b)
 	for i := range len(b) + 1 {
 		for j := i; j <= len(b); j++ {
@@ -145,7 +135,7 @@ func TestSumOfParts(t *testing.T) {
 
 func TestMoreGoesOn(t *testing.T) {
 	for _, n := range []int{0, 1, 2, 9, 64, 301} {
-		b := anyBytes(n)
+		b := sample.Bytes(n)
 		var sum uint32
 		for i, x := range b {
 			sum = frame.More(sum, []byte{x})
@@ -162,7 +152,7 @@ func TestMoreGoesOn(t *testing.T) {
 }
 
 func TestMoreOfAnySum(t *testing.T) {
-	b := anyBytes(13)
+	b := sample.Bytes(13)
 	for _, sum := range anyNumbers() {
 		if n := frame.More(sum, b); n != ^plainOn(^sum, b) {
 			t.Fatalf("More(%08x): %08x, want %08x", sum, n, ^plainOn(^sum, b))
@@ -174,10 +164,10 @@ func TestMoreOfAnySum(t *testing.T) {
 }
 
 func TestSumsLeaveTheirBytes(t *testing.T) {
-	b := anyBytes(50)
+	b := sample.Bytes(50)
 	frame.Sum(b[:20], b[20:])
 	frame.More(7, b)
-	if !bytes.Equal(b, anyBytes(50)) {
+	if !bytes.Equal(b, sample.Bytes(50)) {
 		t.Fatal("changed")
 	}
 }
