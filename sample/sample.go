@@ -11,3 +11,25 @@ func Bytes(n int) []byte {
 	}
 	return b
 }
+
+// Draw makes numbers that look like any, the same ones each time.
+type Draw struct{ left []byte }
+
+// Draws are other numbers by another seed.
+func Draws(seed int) *Draw { return &Draw{left: Bytes(1<<20 + seed)} }
+
+// Next is a number of 64 bits.
+func (d *Draw) Next() uint64 {
+	if len(d.left) < 8 {
+		d.left = Bytes(1 << 20)
+	}
+	var n uint64
+	for _, b := range d.left[:8] {
+		n = n<<8 | uint64(b)
+	}
+	d.left = d.left[8:]
+	return n
+}
+
+// Below is a number from 0 to n - 1.
+func (d *Draw) Below(n int) int { return int(d.Next() >> 8 % uint64(n)) }

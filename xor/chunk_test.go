@@ -5,6 +5,7 @@ import (
 	"testing"
 
 	"manometer/api"
+	"manometer/sample"
 	"manometer/xor"
 )
 
@@ -54,7 +55,7 @@ func TestNewIsEmpty(t *testing.T) {
 }
 
 func TestAddOneByOne(t *testing.T) {
-	d := draws(6)
+	d := sample.Draws(6)
 	for range 200 {
 		l := some(d, 30)
 		c := xor.New()
@@ -101,9 +102,9 @@ func TestAddUpToMaxSamples(t *testing.T) {
 
 func TestLoad(t *testing.T) {
 	mustHold(t, mustLoad(t, []byte{0, 0}), nil)
-	d := draws(7)
+	d := sample.Draws(7)
 	for range 500 {
-		l := some(d, d.below(30))
+		l := some(d, d.Below(30))
 		b := plainPut(l)
 		c := mustLoad(t, b)
 		clear(b)
@@ -119,7 +120,7 @@ func TestLoadRefuses(t *testing.T) {
 }
 
 func TestCloneGoesItsOwnWay(t *testing.T) {
-	d := draws(8)
+	d := sample.Draws(8)
 	for range 100 {
 		l := some(d, 20)
 		for _, at := range []int{0, 1, 2, 3, 10} {
@@ -177,7 +178,7 @@ func TestChunkThatNoCallMade(t *testing.T) {
 // P8.7
 
 func TestLoadedGoesOn(t *testing.T) {
-	d := draws(9)
+	d := sample.Draws(9)
 	for range 100 {
 		l := some(d, 25)
 		for at := range l {
@@ -198,7 +199,7 @@ func TestLoadedGoesOn(t *testing.T) {
 
 // A chunk that grows by being saved and loaded ahead of each sample.
 func TestLoadedAheadOfEach(t *testing.T) {
-	l := append(some(draws(10), 100), widest(100)...)
+	l := append(some(sample.Draws(10), 100), widest(100)...)
 	c := xor.New()
 	for i, s := range l {
 		c = mustLoad(t, c.Bytes())

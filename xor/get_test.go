@@ -183,9 +183,9 @@ func TestGetLeavesItsBytes(t *testing.T) {
 // P8.4
 
 func TestThereAndBack(t *testing.T) {
-	d := draws(2)
+	d := sample.Draws(2)
 	for range 3000 {
-		l := some(d, d.below(60))
+		l := some(d, d.Below(60))
 		mustHave(t, mustPut(t, l), l)
 	}
 }
@@ -206,15 +206,15 @@ func mustBeAsPlain(t *testing.T, b []byte) api.Errno {
 }
 
 func TestGetOfChangedBits(t *testing.T) {
-	d := draws(3)
+	d := sample.Draws(3)
 	told := map[api.Errno]int{}
 	for range 60 {
-		b := plainPut(some(d, d.below(12)))
+		b := plainPut(some(d, d.Below(12)))
 		for i := range 8 * len(b) {
 			other := bytes.Clone(b)
 			other[i/8] ^= 0x80 >> (i % 8)
 			told[mustBeAsPlain(t, other)]++
-			told[mustBeAsPlain(t, other[:d.below(len(other))])]++
+			told[mustBeAsPlain(t, other[:d.Below(len(other))])]++
 		}
 	}
 	for _, err := range []api.Errno{api.OK, api.ErrShort, api.ErrForm} {
@@ -225,24 +225,24 @@ func TestGetOfChangedBits(t *testing.T) {
 }
 
 func TestGetOfAnyBytes(t *testing.T) {
-	d := draws(4)
+	d := sample.Draws(4)
 	for size := range 400 {
 		b := sample.Bytes(size)
 		mustBeAsPlain(t, b)
 		if size >= 2 {
-			b[0], b[1] = 0, byte(d.below(8))
+			b[0], b[1] = 0, byte(d.Below(8))
 			mustBeAsPlain(t, b)
 		}
 	}
 	for range 2000 { // bits that are mostly 0, or mostly 1
-		b := make([]byte, 2+d.below(40))
+		b := make([]byte, 2+d.Below(40))
 		for i := range b {
-			b[i] = byte(d.next() & d.next())
-			if d.below(4) == 0 {
+			b[i] = byte(d.Next() & d.Next())
+			if d.Below(4) == 0 {
 				b[i] = ^b[i]
 			}
 		}
-		b[0], b[1] = 0, byte(d.below(6))
+		b[0], b[1] = 0, byte(d.Below(6))
 		mustBeAsPlain(t, b)
 	}
 }
@@ -276,9 +276,9 @@ func TestNoOtherBytesSayTheSame(t *testing.T) {
 // P8.5
 
 func TestCutOffAnywhere(t *testing.T) {
-	d := draws(5)
+	d := sample.Draws(5)
 	for range 300 {
-		b := mustPut(t, some(d, d.below(40)))
+		b := mustPut(t, some(d, d.Below(40)))
 		for cut := range b {
 			mustRefuse(t, b[:cut], api.ErrShort)
 		}

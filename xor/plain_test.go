@@ -211,57 +211,39 @@ func plainGet(b []byte) (l []api.Sample, err api.Errno) {
 	return l, api.OK
 }
 
-// draw makes numbers that look like any, the same ones each time.
-type draw struct{ left []byte }
-
-func draws(seed int) *draw { return &draw{left: sample.Bytes(1<<20 + seed)} }
-
-// next is a number of 64 bits.
-func (d *draw) next() uint64 {
-	if len(d.left) < 8 {
-		d.left = sample.Bytes(1 << 20)
-	}
-	n := binary.BigEndian.Uint64(d.left)
-	d.left = d.left[8:]
-	return n
-}
-
-// below is a number from 0 to n - 1.
-func (d *draw) below(n int) int { return int(d.next() >> 8 % uint64(n)) }
-
 // edges are the changes where another width begins, and those around them.
 var edges = []int64{0, 1, 2, 8190, 8191, 8192, 8193, 16383, 16384, 65535, 65536, 65537, 131071, 131072, 524287, 524288, 524289, 1 << 20, math.MaxInt64, math.MinInt64}
 
 // some is count samples, as like each other as kind says.
-func some(d *draw, count int) []api.Sample {
+func some(d *sample.Draw, count int) []api.Sample {
 	var l []api.Sample
 	var s api.Sample
 	var step int64
-	kind := d.below(4)
+	kind := d.Below(4)
 	for range count {
-		switch d.below(6) {
+		switch d.Below(6) {
 		case 0:
-			step = int64(d.next())
+			step = int64(d.Next())
 		case 1:
-			step += int64(d.next()) >> d.below(64)
+			step += int64(d.Next()) >> d.Below(64)
 		case 2:
-			step += edges[d.below(len(edges))]
+			step += edges[d.Below(len(edges))]
 		case 3:
-			step -= edges[d.below(len(edges))]
+			step -= edges[d.Below(len(edges))]
 		}
 		s.T += step
-		switch d.below(5) {
+		switch d.Below(5) {
 		case 0:
-			s.V ^= d.next() >> d.below(64) << d.below(64)
+			s.V ^= d.Next() >> d.Below(64) << d.Below(64)
 		case 1:
-			s.V = math.Float64bits(float64(d.below(100)))
+			s.V = math.Float64bits(float64(d.Below(100)))
 		case 2:
 			if kind == 0 {
-				s.V = d.next()
+				s.V = d.Next()
 			}
 		case 3:
 			if kind == 1 {
-				s.V ^= d.next() >> (33 + d.below(30))
+				s.V ^= d.Next() >> (33 + d.Below(30))
 			}
 		}
 		l = append(l, s)

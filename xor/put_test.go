@@ -10,6 +10,7 @@ import (
 	"testing"
 
 	"manometer/api"
+	"manometer/sample"
 	"manometer/xor"
 )
 
@@ -186,9 +187,9 @@ func TestPutTurns(t *testing.T) {
 }
 
 func TestPutOfMany(t *testing.T) {
-	d := draws(1)
+	d := sample.Draws(1)
 	for range 3000 {
-		l := some(d, d.below(40))
+		l := some(d, d.Below(40))
 		if b := mustPut(t, l); !bytes.Equal(b, plainPut(l)) {
 			t.Fatalf("%v: %x, want %x", l, b, plainPut(l))
 		}
